@@ -1,0 +1,1 @@
+"""Guardline: words with guard signs."""
